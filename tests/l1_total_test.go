@@ -52,9 +52,8 @@ func calls1() []call1 {
 
 // wanted1 is the expected result, computed from trees (ReadTerm has tests of its own).
 func wanted1(name string, a args1) results1 {
-	goodSign := len(a.s.Arity) > 0 && len(a.s.Arity) <= 10 && a.s.Arity[0] == 0 && slices.Min(a.s.Arity) >= 0 && slices.Max(a.s.Arity) <= 3
-	if !goodSign || name == "GoodSign" {
-		return results1{ok: goodSign}
+	if !goodSign(a.s) || name == "GoodSign" {
+		return results1{ok: goodSign(a.s)}
 	}
 	none := results1{}
 	if len(a.t) > 40 {

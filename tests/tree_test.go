@@ -115,6 +115,11 @@ func (x *tree) vars() []int {
 	return l
 }
 
+func goodSign(s impl.Sign) bool {
+	l := s.Arity
+	return len(l) > 0 && len(l) <= 10 && l[0] == 0 && slices.Min(l) >= 0 && slices.Max(l) <= 3
+}
+
 // treeOf is nil unless the list is exactly one term of any length.
 func treeOf(s impl.Sign, t []int) *tree {
 	x, rest := takeTree(s, t)
