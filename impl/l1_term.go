@@ -64,6 +64,20 @@ scan:
 	return 0, false
 }
 
+// goodTerms reports whether a list has at most that many terms and all of them are valid.
+func goodTerms(s Sign, l [][]int, most int) bool {
+	// The signature is checked here too, because the list may be empty.
+	if len(l) > most || !GoodSign(s) {
+		return false
+	}
+	for _, t := range l {
+		if !GoodTerm(s, t) {
+			return false
+		}
+	}
+	return true
+}
+
 func hasIndex(s Sign, t []int, at int) bool {
 	return GoodTerm(s, t) && at >= 0 && at < len(t)
 }

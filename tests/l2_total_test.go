@@ -7,21 +7,30 @@ import (
 	"loop.example/g00682/impl"
 )
 
-// args2 are the arguments of a call of chapter 2; each function takes those that it needs.
+// args2 are the arguments of a call of chapter 2 or 3; each function takes those that it needs.
 type args2 struct {
 	s    impl.Sign
 	a, b [][]int
 	t, u []int
 }
 
-// results2 are the results of such a call: lists, or whether something is so, and whether it succeeded.
+// results2 are the results of such a call: lists, a number, or whether something is so, and whether it succeeded.
 type results2 struct {
 	lists  [][]int
+	n      int
 	is, ok bool
 }
 
 func (r results2) equal(q results2) bool {
-	return sameLists(r.lists, q.lists) && r.is == q.is && r.ok == q.ok
+	return sameLists(r.lists, q.lists) && r.n == q.n && r.is == q.is && r.ok == q.ok
+}
+
+// oneList keeps an empty list apart from a list of one empty list.
+func oneList(l []int, ok bool) results2 {
+	if len(l) == 0 {
+		return results2{ok: ok}
+	}
+	return results2{lists: [][]int{l}, ok: ok}
 }
 
 type call2 struct {
@@ -32,13 +41,7 @@ type call2 struct {
 func calls2() []call2 {
 	return []call2{
 		{"GoodSubst", func(x args2) results2 { return results2{ok: impl.GoodSubst(x.s, x.a)} }},
-		{"Apply", func(x args2) results2 {
-			l, ok := impl.Apply(x.s, x.a, x.t)
-			if l == nil {
-				return results2{ok: ok}
-			}
-			return results2{lists: [][]int{l}, ok: ok}
-		}},
+		{"Apply", func(x args2) results2 { return oneList(impl.Apply(x.s, x.a, x.t)) }},
 		{"Compose", func(x args2) (r results2) { r.lists, r.ok = impl.Compose(x.s, x.a, x.b); return }},
 		{"Match", func(x args2) (r results2) { r.lists, r.ok = impl.Match(x.s, x.t, x.u); return }},
 		{"Unify", func(x args2) (r results2) { r.lists, r.ok = impl.Unify(x.s, x.t, x.u); return }},
@@ -183,11 +186,17 @@ func eachArgs2(visit func(x args2)) {
 }
 
 func TestPromise19AllArguments2(t *testing.T) {
+	checkAll2(t, calls2(), eachArgs2, wanted2)
+}
+
+// checkAll2 compares all calls with all arguments, of which enough must be valid for each call.
+func checkAll2(t *testing.T, calls []call2, each func(visit func(x args2)), wanted func(name string, x args2) results2) {
+	t.Helper()
 	succeeded := map[string]int{}
-	eachArgs2(func(x args2) {
-		for _, c := range calls2() {
+	each(func(x args2) {
+		for _, c := range calls {
 			got := c.run(x)
-			if want := wanted2(c.name, x); !got.equal(want) {
+			if want := wanted(c.name, x); !got.equal(want) {
 				t.Fatalf("%s: %v instead of %v for %v", c.name, got, want, x)
 			}
 			if got.ok {
@@ -195,7 +204,7 @@ func TestPromise19AllArguments2(t *testing.T) {
 			}
 		}
 	})
-	for _, c := range calls2() {
+	for _, c := range calls {
 		if succeeded[c.name] < 100 {
 			t.Errorf("%s succeeds only %d times", c.name, succeeded[c.name])
 		}
@@ -347,11 +356,16 @@ func TestPromise19Self2(t *testing.T) {
 
 // TestPromise19Huge2: arguments far above the limits.
 func TestPromise19Huge2(t *testing.T) {
+	checkHuge2(t, calls2(), args2{s: sampleSign(), a: subst("A=b"), b: subst("B=c"), t: term("f(A,b)"), u: term("f(B,b)")}, wanted2)
+}
+
+// checkHuge2 replaces each of the good arguments in turn.
+func checkHuge2(t *testing.T, calls []call2, good args2, wanted func(name string, x args2) results2) {
+	t.Helper()
 	huge := make([]int, 1<<20)
 	lists := make([][]int, 1<<20)
-	full := slices.Repeat([][]int{huge}, 12)
-	good := args2{s: sampleSign(), a: subst("A=b"), b: subst("B=c"), t: term("f(A,b)"), u: term("f(B,b)")}
-	for _, c := range calls2() {
+	full := slices.Repeat([][]int{huge}, len(good.a))
+	for _, c := range calls {
 		for i := range 7 {
 			x := good
 			switch i {
@@ -370,7 +384,7 @@ func TestPromise19Huge2(t *testing.T) {
 			case 6:
 				x.u = huge
 			}
-			if got, want := c.run(x), wanted2(c.name, x); !got.equal(want) {
+			if got, want := c.run(x), wanted(c.name, x); !got.equal(want) {
 				t.Errorf("%s with huge argument %d: %v instead of %v", c.name, i, got, want)
 			}
 		}
