@@ -129,6 +129,7 @@ func ReplaceAt(s Sign, t []int, at int, u []int) ([]int, bool) {
 	return out, true
 }
 
+// marksOf also takes several terms, one behind the other.
 func marksOf(t []int) varMarks {
 	var marks varMarks
 	for _, n := range t {
@@ -143,15 +144,19 @@ func VarsOf(s Sign, t []int) ([]int, bool) {
 	if !GoodTerm(s, t) {
 		return nil, false
 	}
+	return marksOf(t).vars(), true
+}
+
+// vars empties its own copy of the set.
+func (left varMarks) vars() []int {
 	var vars []int
-	left := marksOf(t)
 	for v := 0; left != (varMarks{}); v++ {
 		if left[v] {
 			vars = append(vars, v)
 			left[v] = false
 		}
 	}
-	return vars, true
+	return vars
 }
 
 func CountOf(s Sign, t []int, n int) (int, bool) {

@@ -218,17 +218,12 @@ func TestReadTermAllShort(t *testing.T) {
 	}
 }
 
-// TestReadTermAllBytes tries each byte where a term, an opening mark, a separator, a closing mark or the end is expected.
-func TestReadTermAllBytes(t *testing.T) {
-	s := impl.Sign{Arity: []int{0, 1, 2}}
-	places := []struct{ before, fits string }{
-		{"", "abcABCDEFGHIJKL"},
-		{"b", "("},
-		{"c(a", ","},
-		{"c(a,", "abcABCDEFGHIJKL"},
-		{"c(a,A", ")"},
-		{"c(a,A)", ""},
-	}
+// place is a text, and the bytes with which it may go on.
+type place struct{ before, fits string }
+
+// checkAllBytes tries each byte at each place. A byte that fits nowhere stands behind it, so that no text can be read.
+func checkAllBytes(t *testing.T, places []place, read func(text string) (many, at int, ok bool)) {
+	t.Helper()
 	for _, p := range places {
 		for b := range 256 {
 			text := p.before + string([]byte{byte(b), '!'})
@@ -236,9 +231,26 @@ func TestReadTermAllBytes(t *testing.T) {
 			if strings.IndexByte(p.fits, byte(b)) >= 0 {
 				want++
 			}
-			if got, at, ok := impl.ReadTerm(s, text); len(got) != 0 || at != want || ok {
-				t.Errorf("ReadTerm(%q): %v, %d, %v", text, got, at, ok)
+			if many, at, ok := read(text); many != 0 || at != want || ok {
+				t.Errorf("reading %q yields %d elements, position %d, %v", text, many, at, ok)
 			}
 		}
 	}
+}
+
+// TestReadTermAllBytes tries each byte where a term, an opening mark, a separator, a closing mark or the end is expected.
+func TestReadTermAllBytes(t *testing.T) {
+	s := impl.Sign{Arity: []int{0, 1, 2}}
+	places := []place{
+		{"", "abcABCDEFGHIJKL"},
+		{"b", "("},
+		{"c(a", ","},
+		{"c(a,", "abcABCDEFGHIJKL"},
+		{"c(a,A", ")"},
+		{"c(a,A)", ""},
+	}
+	checkAllBytes(t, places, func(text string) (int, int, bool) {
+		got, at, ok := impl.ReadTerm(s, text)
+		return len(got), at, ok
+	})
 }
