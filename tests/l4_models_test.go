@@ -94,15 +94,15 @@ func TestPromise4Large(t *testing.T) {
 }
 
 // threeVars puts A, B and C for all variables, so that few assignments have to be tried.
-func threeVars(row []lit) []lit {
+func threeVars(row []lit) []lit { return someVars(row, []int{0, 1, 2}) }
+
+// someVars puts variables from that list for all variables.
+func someVars(row []lit, vars []int) []lit {
 	values := make([][]*tree, 12)
 	for v := range values {
-		values[v] = []*tree{leaf(-1 - v%3)}
+		values[v] = []*tree{leaf(-1 - vars[v%len(vars)])}
 	}
-	var out []lit
-	for _, x := range row {
-		out = append(out, lit{x.pos, put(values, x.l), put(values, x.r)})
-	}
+	out, _ := putAll(values, row)
 	return out
 }
 
