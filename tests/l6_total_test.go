@@ -28,13 +28,18 @@ func (r results6) equal(q results6) bool {
 	return sameClauses(r.c, q.c) && r.code == q.code && slices.Equal(r.list, q.list) && slices.Equal(r.ways, q.ways) && r.ok == q.ok
 }
 
-// parts are all lists of a result, also those behind the length of its clause.
+func (r results6) succeeded() bool { return r.ok }
+
+func (r results6) finds() bool { return len(r.c)+len(r.list)+len(r.ways) > 0 }
+
 func (r results6) parts() [][]int { return append(listsIn(r.c[:cap(r.c)]), r.list) }
 
-type call6 struct {
-	name string
-	run  func(x args6) results6
+func (r results6) wipe() {
+	clear(r.c[:cap(r.c)])
+	clear(r.ways[:cap(r.ways)])
 }
+
+type call6 = callOf[args6, results6]
 
 func calls6() []call6 {
 	return []call6{
@@ -138,32 +143,12 @@ func eachArgs6(visit func(x args6)) {
 }
 
 func TestPromise19AllArguments6(t *testing.T) {
-	succeeded, failed, found := map[string]int{}, map[string]int{}, map[string]int{}
-	calls := calls6()
-	eachArgs6(func(x args6) {
-		for _, c := range calls {
-			got := c.run(x)
-			if want := wanted6(c.name, x); !got.equal(want) {
-				t.Fatalf("%s: %v instead of %v for %v", c.name, got, want, x)
-			}
-			if got.ok {
-				succeeded[c.name]++
-			} else {
-				failed[c.name]++
-			}
-			if len(got.c)+len(got.list)+len(got.ways) > 0 {
-				found[c.name]++
-			}
-		}
-	})
-	for _, c := range calls {
-		if succeeded[c.name] < 1000 || failed[c.name] < 500 || found[c.name] < 100 {
-			t.Errorf("%s succeeds %d times, fails %d times and returns something %d times", c.name, succeeded[c.name], failed[c.name], found[c.name])
-		}
-	}
+	checkArguments(t, calls6(), eachArgs6, wanted6, atLeast{1000, 500, 100})
 }
 
-func guardedArgs6(x args6) (args6, []*guard) {
+func (x args6) clauses() [][]impl.Lit { return [][]impl.Lit{x.c, x.d} }
+
+func (x args6) guarded() (args6, []*guard) {
 	arity := guarded(x.s.Arity)
 	c, guards := guardedClause(x.c, []*guard{arity})
 	d, guards := guardedClause(x.d, guards)
@@ -174,46 +159,9 @@ func TestPromise19Memory6(t *testing.T) {
 	calls := calls6()
 	eachArgs6(func(x args6) {
 		for _, c := range calls {
-			checkMemory6(t, c, x)
+			checkKept(t, c, x)
 		}
 	})
-}
-
-// checkMemory6 calls a function with guarded arguments. It reports an argument that is modified, a result that depends on
-// what stands behind an argument or on an earlier call, and a result that shares memory with an argument or with itself.
-func checkMemory6(t *testing.T, c call6, x args6) {
-	y, guards := guardedArgs6(x)
-	first, second := copied(y.c[:cap(y.c)]), copied(y.d[:cap(y.d)])
-	plain, got := c.run(x), c.run(y)
-	if !got.equal(plain) {
-		t.Fatalf("%s of %v: %v, then %v", c.name, x, plain, got)
-	}
-	if !got.ok && !got.equal(results6{}) {
-		t.Fatalf("%s of %v fails with %v", c.name, x, got)
-	}
-	unchanged := func(what string) {
-		if !sameClauses(y.c[:cap(y.c)], first) || !sameClauses(y.d[:cap(y.d)], second) {
-			t.Fatalf("%s of %v: %s modifies a list of literals", c.name, x, what)
-		}
-		reportChanged(t, c.name+", "+what, guards)
-	}
-	unchanged("the call")
-	checkOwn(t, c.name, got.parts())
-	clear(got.c[:cap(got.c)])
-	clear(got.ways[:cap(got.ways)])
-	unchanged("overwriting the result")
-	again := c.run(y)
-	if !again.equal(plain) {
-		t.Fatalf("%s of %v: %v, then %v", c.name, x, plain, again)
-	}
-	for _, g := range guards {
-		fill(g.array)
-	}
-	clear(y.c)
-	clear(y.d)
-	if !again.equal(plain) {
-		t.Fatalf("%s of %v shares memory", c.name, x)
-	}
 }
 
 // TestPromise19Own6: conclusions and clauses made apart have memory of their own, also where they equal an argument, and may
@@ -225,20 +173,8 @@ func TestPromise19Own6(t *testing.T) {
 	x := args6{s: sampleSign(), c: []impl.Lit{{Pos: true, L: []int{-1}, R: w}, same, {Pos: true, L: []int{-1}, R: w}}, d: []impl.Lit{same, {Pos: false, L: []int{-3}, R: w}}}
 	x.w = wayOf(0, 0, 1, 1, 0)
 	y := args6{s: sampleSign(), c: []impl.Lit{other, same, {Pos: true, L: w, R: []int{-1}}}, d: x.d, w: wayOf(1, 0, 2, 0, 0)}
-	for _, z := range []args6{x, y} {
-		for _, c := range calls6() {
-			first, second := c.run(z), c.run(z)
-			if !first.ok || !first.equal(second) || !first.equal(wanted6(c.name, z)) {
-				t.Fatal(c.name, first, second)
-			}
-			checkOwn(t, c.name, first.parts())
-			clear(first.c[:cap(first.c)])
-			clear(first.ways[:cap(first.ways)])
-			if third := c.run(z); !second.equal(third) {
-				t.Error(c.name, second, third)
-			}
-		}
-	}
+	checkRepeated(t, calls6(), x, wanted6, "")
+	checkRepeated(t, calls6(), y, wanted6, "")
 	if !slices.Equal(w, term("d(b)")) {
 		t.Error("an argument is modified", w)
 	}
@@ -326,13 +262,5 @@ func TestPromise19Huge6(t *testing.T) {
 		func(x *args6) { x.w = wayOf(1<<62, 1<<62, 1<<62, 1<<62, 1<<62) },
 		func(x *args6) { x.w.At = 1 << 62 },
 	}
-	for _, c := range calls6() {
-		for i, change := range changes {
-			x := good
-			change(&x)
-			if got, want := c.run(x), wanted6(c.name, x); !got.equal(want) {
-				t.Errorf("%s with huge argument %d: %v instead of %v", c.name, i, got, want)
-			}
-		}
-	}
+	checkChanged(t, calls6(), good, changes, wanted6)
 }
