@@ -149,7 +149,7 @@ func (x *truths) checkProof(t *testing.T, inputs [][]lit, fuel int) impl.Result 
 			premises = append(premises, inputs[i])
 		}
 		if !slices.ContainsFunc(append(premises, row), hasManyVars) {
-			x.check(t, []string{"", "input", "super", "resolve", "factor", "normal"}[step.Rule], i, impl.InDone, step.Clause, premises...)
+			x.check(t, ruleWords()[step.Rule], i, impl.InDone, step.Clause, premises...)
 		}
 	}
 	for _, k := range r.Active {

@@ -263,17 +263,7 @@ func (x args8) lists() string {
 }
 
 func TestPromise19Memory8(t *testing.T) {
-	calls, i := calls8(), 0
-	for k, c := range calls {
-		calls[k].run = func(x args8) results8 {
-			before := x.lists()
-			r := c.run(x)
-			if x.lists() != before {
-				t.Fatalf("%s modifies a list of lists: %s was %s", c.name, x.lists(), before)
-			}
-			return r
-		}
-	}
+	calls, i := watched(t, calls8()), 0
 	eachArgs8(func(x args8) {
 		// Three calls for each combination, so that each function gets many of them in little time.
 		for range 3 {

@@ -15,9 +15,12 @@ func sameResults(x, y impl.Result) bool {
 	return x.Code == y.Code && slices.EqualFunc(x.Steps, y.Steps, sameStep) && slices.Equal(x.Active, y.Active)
 }
 
+// ruleWords are the words for the rules; the first one is for no rule.
+func ruleWords() []string { return []string{"none", "input", "super", "resolve", "factor", "normal"} }
+
 // textOfStep writes a step as the document does.
 func textOfStep(s impl.Sign, x impl.Step) string {
-	text := []string{"none", "input", "super", "resolve", "factor", "normal"}[x.Rule]
+	text := ruleWords()[x.Rule]
 	for _, p := range x.Parents {
 		text += " " + strconv.Itoa(p)
 	}

@@ -106,6 +106,23 @@ func checkKept[A arguments[A], R results[R]](t *testing.T, c callOf[A, R], x A) 
 	}
 }
 
+// watched are the calls, which also report a list of lists among the arguments that is modified.
+func watched[A interface{ lists() string }, R any](t *testing.T, calls []callOf[A, R]) []callOf[A, R] {
+	var out []callOf[A, R]
+	for _, c := range calls {
+		run := func(x A) R {
+			before := x.lists()
+			r := c.run(x)
+			if x.lists() != before {
+				t.Fatalf("%s modifies a list of lists: %s was %s", c.name, x.lists(), before)
+			}
+			return r
+		}
+		out = append(out, callOf[A, R]{c.name, run})
+	}
+	return out
+}
+
 // checkRepeated calls each function three times. The results must be as expected, and overwriting the first one must not
 // change a later one. The function of that name may fail.
 func checkRepeated[A any, R results[R]](t *testing.T, calls []callOf[A, R], x A, wanted func(name string, x A) R, failing string) {
